@@ -1,0 +1,50 @@
+package span
+
+import (
+	"errors"
+	"math"
+	"math/rand"
+	"testing"
+
+	"weir/api"
+	"weir/fault"
+)
+
+// noPlace stands for an error that tells no place.
+const noPlace = -1
+
+// fails holds an error against a number and a place.
+func fails(t *testing.T, what string, err error, e api.Errno, pos int) {
+	t.Helper()
+	if fault.Code(err) != e {
+		t.Errorf("%q: %v, not the error %d", what, err, e)
+	}
+	var at api.At
+	if found := errors.As(err, &at); found != (pos != noPlace) || found && at.Pos != pos {
+		t.Errorf("%q: %v, not at %d", what, err, pos)
+	}
+	if _, found := fault.Index(err); found {
+		t.Errorf("%q: %v has an index", what, err)
+	}
+}
+
+// draw is a source with a fixed seed, so that each run draws the same.
+func draw() *rand.Rand { return rand.New(rand.NewSource(1970)) }
+
+// someInts are int64's ends, small numbers, multiples of all units, and some drawn of all sizes.
+func someInts() []int64 {
+	all := []int64{math.MinInt64, math.MinInt64 + 1, math.MaxInt64 - 1, math.MaxInt64}
+	for n := int64(-70); n <= 70; n++ {
+		for _, size := range []int64{1, 1000, 1e6, 1e9, 60e9, 3600e9, 24 * 3600e9, 7 * 24 * 3600e9, 365 * 24 * 3600e9} {
+			all = append(all, n*size, n*size+1, n*size-1)
+		}
+	}
+	chance := draw()
+	for k := range 4000 {
+		all = append(all, int64(chance.Uint64())>>(k%64))
+	}
+	return all
+}
+
+// pick draws one of several.
+func pick[T any](chance *rand.Rand, of ...T) T { return of[chance.Intn(len(of))] }
