@@ -1,13 +1,13 @@
 package num
 
 import (
-	"errors"
 	"math"
 	"math/big"
 	"math/rand"
 	"testing"
 
 	"weir/api"
+	"weir/expect"
 )
 
 // The tests hold each answer against math/big's. Where numbers are drawn the
@@ -68,11 +68,8 @@ func down(a, b *big.Int) *big.Int {
 // fails tells of an error other than this one, alone.
 func fails(t *testing.T, err error, e api.Errno) {
 	t.Helper()
-	var n api.Errno
-	var at api.At
-	var in api.In
-	if !errors.As(err, &n) || n != e || errors.As(err, &at) || errors.As(err, &in) {
-		t.Errorf("the error is %v, not %v", err, e)
+	if wrong := expect.Wrong(err, e, expect.None, expect.None); wrong != "" {
+		t.Errorf("%v: %s", err, wrong)
 	}
 }
 

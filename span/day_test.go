@@ -6,6 +6,7 @@ import (
 	"time"
 
 	"weir/api"
+	"weir/expect"
 )
 
 // The chapter's third example.
@@ -30,7 +31,7 @@ func TestNoDays(t *testing.T) {
 		{math.MinInt, 1, 1}, {math.MaxInt, 1, 1}, {2024, math.MinInt, 1}, {2024, math.MaxInt, 1}, {2024, 1, math.MinInt}, {2024, 1, math.MaxInt},
 	} {
 		n, err := Day(c[0], c[1], c[2])
-		fails(t, "a day", err, api.ErrTime, noPlace)
+		fails(t, "a day", err, api.ErrTime, expect.None)
 		if n != 0 {
 			t.Errorf("%v: %d beside an error", c, n)
 		}

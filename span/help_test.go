@@ -1,30 +1,19 @@
 package span
 
 import (
-	"errors"
 	"math"
 	"math/rand"
 	"testing"
 
 	"weir/api"
-	"weir/fault"
+	"weir/expect"
 )
-
-// noPlace stands for an error that tells no place.
-const noPlace = -1
 
 // fails holds an error against a number and a place.
 func fails(t *testing.T, what string, err error, e api.Errno, pos int) {
 	t.Helper()
-	if fault.Code(err) != e {
-		t.Errorf("%q: %v, not the error %d", what, err, e)
-	}
-	var at api.At
-	if found := errors.As(err, &at); found != (pos != noPlace) || found && at.Pos != pos {
-		t.Errorf("%q: %v, not at %d", what, err, pos)
-	}
-	if _, found := fault.Index(err); found {
-		t.Errorf("%q: %v has an index", what, err)
+	if wrong := expect.Wrong(err, e, pos, expect.None); wrong != "" {
+		t.Errorf("%q: %v: %s", what, err, wrong)
 	}
 }
 

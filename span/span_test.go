@@ -10,6 +10,7 @@ import (
 	"testing"
 
 	"weir/api"
+	"weir/expect"
 )
 
 // The chapter's first example.
@@ -52,14 +53,14 @@ func TestNoSpans(t *testing.T) {
 		"99999999999999999999w1w", "20000w1", "20000wx", "-20000w ",
 	} {
 		n, err := Parse(s)
-		fails(t, s, err, api.ErrSpan, noPlace)
+		fails(t, s, err, api.ErrSpan, expect.None)
 		if n != 0 {
 			t.Errorf("%q: %d beside an error", s, n)
 		}
 	}
 	for _, s := range []string{"", "-", "-5s", "+5s", " 5s", "5", "s", "5 s", "x5s", "٣s", "99999999999999999999", "5u5s"} {
 		n, to, err := Scan(s)
-		fails(t, s, err, api.ErrSpan, noPlace)
+		fails(t, s, err, api.ErrSpan, expect.None)
 		if n != 0 || to != 0 {
 			t.Errorf("%q: %d, %d beside an error", s, n, to)
 		}
@@ -74,14 +75,14 @@ func TestSpansOutside(t *testing.T) {
 	} {
 		for _, sign := range []string{"", "-"} {
 			n, err := Parse(sign + s)
-			fails(t, sign+s, err, api.ErrOver, noPlace)
+			fails(t, sign+s, err, api.ErrOver, expect.None)
 			if n != 0 {
 				t.Errorf("%q: %d beside an error", sign+s, n)
 			}
 		}
 		for _, more := range []string{"", "1w", " ", "x", "7"} {
 			n, to, err := Scan(s + more)
-			fails(t, s+more, err, api.ErrOver, noPlace)
+			fails(t, s+more, err, api.ErrOver, expect.None)
 			if n != 0 || to != 0 {
 				t.Errorf("%q: %d, %d beside an error", s+more, n, to)
 			}
@@ -140,7 +141,7 @@ func TestScanAndParse(t *testing.T) {
 		}
 		came[e]++
 		n, size, err := Scan(s)
-		fails(t, s, err, e, noPlace)
+		fails(t, s, err, e, expect.None)
 		if e == 0 && (n != want.Int64() || size != to) {
 			t.Errorf("Scan of %q: %d, %d, not %v, %d", s, n, size, want, to)
 		}
@@ -148,9 +149,9 @@ func TestScanAndParse(t *testing.T) {
 			e = api.ErrSpan
 		}
 		n, err = Parse(s)
-		fails(t, s, err, e, noPlace)
+		fails(t, s, err, e, expect.None)
 		m, bad := Parse("-" + s)
-		fails(t, "-"+s, bad, e, noPlace)
+		fails(t, "-"+s, bad, e, expect.None)
 		if e == 0 && (n != want.Int64() || m != -n) {
 			t.Errorf("Parse of %q: %d, %d, not %v", s, n, m, want)
 		}
@@ -206,9 +207,9 @@ func TestScanTakesJustTheText(t *testing.T) {
 func TestLongSpans(t *testing.T) {
 	digits := strings.Repeat("7", 1<<20)
 	_, err := Parse(digits)
-	fails(t, "digits", err, api.ErrSpan, noPlace)
+	fails(t, "digits", err, api.ErrSpan, expect.None)
 	_, err = Parse(digits + "s")
-	fails(t, "digits and s", err, api.ErrOver, noPlace)
+	fails(t, "digits and s", err, api.ErrOver, expect.None)
 	n, to, err := Scan(strings.Repeat("0", 1<<20) + "1s" + digits)
 	if n != 1e9 || to != 1<<20+2 || err != nil {
 		t.Errorf("%d, %d, %v", n, to, err)

@@ -11,6 +11,7 @@ import (
 	"time"
 
 	"weir/api"
+	"weir/expect"
 )
 
 // The chapter's second example.
@@ -80,7 +81,7 @@ func TestTimesOutside(t *testing.T) {
 		"1677-09-21T00:12:43.145224191Z", "1677-09-21T00:12:43Z", "1677-09-21T00:12:42.999999999Z", "2262-04-11T23:47:16.854775807-00:01", "1677-09-21T00:12:43.145224192+00:01",
 	} {
 		n, err := Time(s)
-		fails(t, s, err, api.ErrOver, noPlace)
+		fails(t, s, err, api.ErrOver, expect.None)
 		if n != 0 {
 			t.Errorf("%q: %d beside an error", s, n)
 		}
@@ -192,7 +193,7 @@ func TestTimes(t *testing.T) {
 		want := reckoned(t, s)
 		if !want.IsInt64() {
 			came["over"]++
-			fails(t, s, err, api.ErrOver, noPlace)
+			fails(t, s, err, api.ErrOver, expect.None)
 			continue
 		}
 		came["taken"]++

@@ -9,6 +9,7 @@ import (
 	"testing"
 
 	"weir/api"
+	"weir/expect"
 )
 
 // P3.4
@@ -60,7 +61,7 @@ func shut(t *testing.T, what string, b []byte, e api.Errno) {
 	if k != 0 || n != 0 || len(got) != 0 || size != 0 {
 		t.Errorf("%s: %d, %d, %x, %d beside an error", what, k, n, got, size)
 	}
-	fails(t, what, err, e, noPlace)
+	fails(t, what, err, e, expect.None)
 }
 
 // P3.4
@@ -90,7 +91,7 @@ func TestGreatestFrame(t *testing.T) {
 	if f != nil {
 		t.Errorf("%d bytes beside an error", len(f))
 	}
-	fails(t, "too great", err, api.ErrLong, noPlace)
+	fails(t, "too great", err, api.ErrLong, expect.None)
 }
 
 // P3.4: what is told first.

@@ -9,6 +9,7 @@ import (
 	"testing"
 
 	"weir/api"
+	"weir/expect"
 	"weir/fault"
 )
 
@@ -200,8 +201,8 @@ func TestNilReader(t *testing.T) {
 	if r.At() != 0 || r.Left() != 0 {
 		t.Errorf("at %d, %d left", r.At(), r.Left())
 	}
-	fails(t, "Fault", r.Fault(), api.ErrNil, noPlace)
-	fails(t, "Done", r.Done(), api.ErrNil, noPlace)
+	fails(t, "Fault", r.Fault(), api.ErrNil, expect.None)
+	fails(t, "Done", r.Done(), api.ErrNil, expect.None)
 }
 
 // NewReader reads b as it was; what is answered is the caller's.
