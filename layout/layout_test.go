@@ -25,6 +25,9 @@ var library = []string{
 	"sync", "sync/atomic", "unicode", "unicode/utf8",
 }
 
+// startUp are the packages whose chapter asks, under 'Ways', for one variable that is made when the program starts.
+var startUp = []string{"lex"}
+
 // mostLines is how long a function may be.
 const mostLines = 60
 
@@ -112,7 +115,9 @@ func TestShortFunctions(t *testing.T) {
 }
 
 // At package level each variable is written out: errors.New of a text, or a literal that is no map and no function.
+// Where start-up is asked for, one may be made by a call.
 func TestVariables(t *testing.T) {
+	made := map[string]int{}
 	for _, s := range sources(t) {
 		for _, d := range s.file.Decls {
 			g, ok := d.(*ast.GenDecl)
@@ -121,7 +126,11 @@ func TestVariables(t *testing.T) {
 			}
 			for _, spec := range g.Specs {
 				v := spec.(*ast.ValueSpec)
-				if len(v.Values) != len(v.Names) || slices.ContainsFunc(v.Values, mayNotStand) {
+				if len(v.Values) == len(v.Names) && !slices.ContainsFunc(v.Values, mayNotStand) {
+					continue
+				}
+				made[s.pack]++
+				if len(v.Values) != 1 || made[s.pack] > 1 || !slices.Contains(startUp, s.pack) {
 					t.Errorf("%s: the variable %s", s.path, v.Names[0].Name)
 				}
 			}
