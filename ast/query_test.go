@@ -32,7 +32,7 @@ func asked() api.Query {
 func queryText(q api.Query) string {
 	var items, cells []string
 	for _, item := range q.Items {
-		g, _, _ := grow(item.Tree)
+		g := sample.Grown(item.Tree)
 		s := sumText(g)
 		if item.Alias.Text != "" {
 			s += " AS " + lex.Quote(item.Alias.Text)
@@ -45,7 +45,7 @@ func queryText(q api.Query) string {
 	}
 	parts = append(parts, "FROM", lex.Quote(q.From.Text))
 	if len(q.Where) > 0 {
-		g, _, _ := grow(q.Where)
+		g := sample.Grown(q.Where)
 		parts = append(parts, "WHERE", condText(g))
 	}
 	window := "time(" + span.Print(q.Every) + ")"
@@ -247,7 +247,7 @@ func TestLongest(t *testing.T) {
 		q.Where = append(q.Where, sample.Above(api.OpEq, sample.Tag("a"), sample.Text(strings.Repeat("t", api.MaxText)))...)
 	}
 	q.Where[0].Kids += list
-	g, _, whole := grow(q.Where)
+	g, _, whole := sample.Grow(q.Where)
 	if !whole {
 		t.Fatal("no tree")
 	}

@@ -76,11 +76,11 @@ func TestAnyTexts(t *testing.T) {
 	}
 }
 
-func textHolds(t *testing.T, l []api.Node, ask func([]api.Node) (string, error), right func([]api.Node) error, model func(grown) string) {
+func textHolds(t *testing.T, l []api.Node, ask func([]api.Node) (string, error), right func([]api.Node) error, model func(sample.Tree) string) {
 	t.Helper()
 	want := ""
 	if right(l) == nil {
-		g, _, _ := grow(l)
+		g := sample.Grown(l)
 		want = model(g)
 	}
 	got, err := ask(l)

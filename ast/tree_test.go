@@ -14,14 +14,14 @@ import (
 func holds(t *testing.T, l []api.Node) {
 	t.Helper()
 	for at := range len(l) + 1 {
-		g, rest, whole := grow(l[at:])
+		g, rest, whole := sample.Grow(l[at:])
 		end, kids := 0, []int(nil)
 		if whole {
 			end = len(l) - len(rest)
 			behind := l[at+1:]
-			for range g.kids {
+			for range g.Under {
 				kids = append(kids, len(l)-len(behind))
-				_, behind, _ = grow(behind)
+				_, behind, _ = sample.Grow(behind)
 			}
 		}
 		if got := End(l, at); got != end {
@@ -31,11 +31,11 @@ func holds(t *testing.T, l []api.Node) {
 			t.Fatalf("%v: the kids at %d are at %v, not at %v", l, at, got, kids)
 		}
 	}
-	g, rest, whole := grow(l)
+	g, rest, whole := sample.Grow(l)
 	whole = whole && len(rest) == 0
 	depth := 0
 	if whole {
-		depth = g.levels()
+		depth = g.Levels()
 	}
 	if got := Depth(l); got != depth {
 		t.Fatalf("%v has %d levels, not %d", l, got, depth)

@@ -11,31 +11,6 @@ import (
 	"weir/sample"
 )
 
-// reckoned is what an operator of two numbers is, as a whole number; nil: a division by 0.
-func reckoned(op api.Op, a, b *big.Int) *big.Int {
-	n := new(big.Int)
-	switch op {
-	case api.OpAdd:
-		return n.Add(a, b)
-	case api.OpSub:
-		return n.Sub(a, b)
-	case api.OpMul:
-		return n.Mul(a, b)
-	}
-	if b.Sign() == 0 {
-		return nil
-	}
-	// Rounded down, what is left has the second one's sign.
-	left := new(big.Int).Mod(a, b)
-	if left.Sign() != 0 && b.Sign() < 0 {
-		left.Add(left, b)
-	}
-	if op == api.OpMod {
-		return left
-	}
-	return n.Quo(n.Sub(a, left), b)
-}
-
 // sumFolded is a sum folded, as the chapter tells it.
 func (g grown) sumFolded() grown {
 	all := grown{Node: g.Node}
@@ -45,55 +20,15 @@ func (g grown) sumFolded() grown {
 	if len(all.kids) == 0 || slices.ContainsFunc(all.kids, func(kid grown) bool { return kid.Op != api.OpInt }) {
 		return all
 	}
-	var n *big.Int
-	if g.Op == api.OpNeg {
-		n = new(big.Int).Neg(big.NewInt(all.kids[0].N))
-	} else {
-		n = reckoned(g.Op, big.NewInt(all.kids[0].N), big.NewInt(all.kids[1].N))
+	var numbers []*big.Int
+	for _, kid := range all.kids {
+		numbers = append(numbers, big.NewInt(kid.N))
 	}
+	n := sample.Reckoned(g.Op, numbers...)
 	if n == nil || !n.IsInt64() || n.Int64() == math.MinInt64 {
 		return all
 	}
 	return grown{Node: api.Node{Op: api.OpInt, N: n.Int64()}}
-}
-
-// told is what an item tells, if each call tells a value, as DOC.md's words say.
-func (g grown) told(calls map[api.Node]api.Told) api.Told {
-	whole := func(n *big.Int) api.Told {
-		switch {
-		case n == nil:
-			return api.Told{Some: true, Value: api.Value{Kind: api.Void}}
-		case !n.IsInt64():
-			return api.Told{Some: true, Value: api.Value{Kind: api.Over}}
-		}
-		return api.Told{Some: true, Value: api.Value{N: n.Int64()}}
-	}
-	switch g.Op {
-	case api.OpInt:
-		return whole(big.NewInt(g.N))
-	case api.OpCall:
-		return calls[api.Node{Func: g.Func, S: g.S}]
-	}
-	var l []api.Told
-	for _, kid := range g.kids {
-		l = append(l, kid.told(calls))
-	}
-	for _, none := range l {
-		if !none.Some {
-			return api.Told{}
-		}
-	}
-	for _, mark := range []api.ValueKind{api.Over, api.Void} {
-		for _, one := range l {
-			if one.Value.Kind == mark {
-				return one
-			}
-		}
-	}
-	if g.Op == api.OpNeg {
-		return whole(new(big.Int).Neg(big.NewInt(l[0].Value.N)))
-	}
-	return whole(reckoned(g.Op, big.NewInt(l[0].Value.N), big.NewInt(l[1].Value.N)))
 }
 
 // someSum draws a right sum of few names.
@@ -178,7 +113,8 @@ func TestAnySums(t *testing.T) {
 			value := sample.One(d, api.Value{N: d.Number()}, api.Value{N: math.MinInt64}, api.Value{}, api.Value{Kind: api.Over}, api.Value{Kind: api.Void})
 			calls[api.Node{Func: call.Func, S: call.S}] = api.Told{Some: d(6) > 0, Value: value}
 		}
-		a, b := grow(l).told(calls), grow(got).told(calls)
+		told := func(call api.Node) api.Told { return calls[api.Node{Func: call.Func, S: call.S}] }
+		a, b := sample.Tell(l, told), sample.Tell(got, told)
 		if a != b {
 			t.Fatalf("%v: %v, but %v of %v", l, a, b, got)
 		}
