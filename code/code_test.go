@@ -9,6 +9,7 @@ import (
 
 	"weir/api"
 	"weir/expect"
+	"weir/sample"
 )
 
 // made is what a call makes of something, without an error.
@@ -247,11 +248,11 @@ func TestSame(t *testing.T) {
 		p.Groups, p.Accs, p.Aliases, p.Names = append(p.Groups, ""), append(p.Accs, api.Acc{}), append(p.Aliases, ""), append(p.Names, "")
 		p.Texts, p.Lists, p.Times, p.Ints = append(p.Texts, ""), append(p.Lists, nil), append(p.Times, 5), append(p.Ints, 7)
 		p.Filter, p.Output = append([]api.Ins{ratio}, p.Filter...), append([]api.Ins{ratio}, p.Output...)
-		if !Same(p, copied(p)) {
+		if !Same(p, sample.CopyProgram(p)) {
 			t.Fatalf("%v is not itself", p)
 		}
 		for name, change := range changes() {
-			other := copied(p)
+			other := sample.CopyProgram(p)
 			change(&other)
 			if Same(p, other) || Same(other, p) {
 				t.Fatalf("%s: %v is the same as %v", name, p, other)
@@ -273,9 +274,9 @@ func TestMemory(t *testing.T) {
 	d := draw()
 	for range 500 {
 		p := program(d)
-		in, kept := copied(p), copied(p)
+		in, kept := sample.CopyProgram(p), sample.CopyProgram(p)
 		b, s := made(t, Encode, in), made(t, List, in)
-		if !reflect.DeepEqual(spare(in), spare(kept)) {
+		if !reflect.DeepEqual(sample.SpareProgram(in), sample.SpareProgram(kept)) {
 			t.Fatalf("%v, not %v", in, kept)
 		}
 		room := append(b, 77)[:len(b)]
@@ -285,7 +286,7 @@ func TestMemory(t *testing.T) {
 		} {
 			first, err := read()
 			fails(t, name, err, 0, expect.None)
-			spoil(first)
+			sample.SpoilProgram(first)
 			second, err := read()
 			fails(t, name, err, 0, expect.None)
 			if !alike(second, p) || !bytes.Equal(room[:len(b)+1], append(written(p), 77)) {
@@ -296,48 +297,16 @@ func TestMemory(t *testing.T) {
 	}
 }
 
-// spare is a program with what stands behind the ends of its lists.
-func spare(p api.Program) []any {
-	all := []any{p.From, p.Into, p.Every, p.Offset, more(p.Groups), more(p.Accs), more(p.Aliases), more(p.Names), more(p.Texts), more(p.Times), more(p.Ints), more(p.Filter), more(p.Output)}
-	for _, l := range p.Lists {
-		all = append(all, more(l))
-	}
-	return append(all, more(p.Lists))
-}
-
-func more[T any](l []T) []T { return l[:len(l)+1] }
-
-// fill changes all of a list, and what stands behind it.
-func fill[T any](l []T, v T) {
-	for i := range l {
-		l[i] = v
-	}
-	_ = append(l, v)
-}
-
-// spoil changes all that a program's lists have.
-func spoil(p api.Program) {
-	for _, l := range append([][]string{p.Groups, p.Aliases, p.Names, p.Texts}, p.Lists...) {
-		fill(l, "spoilt")
-	}
-	fill(p.Accs, api.Acc{Field: "spoilt"})
-	fill(p.Lists, []string{"spoilt"})
-	fill(p.Times, 99)
-	fill(p.Ints, 99)
-	fill(p.Filter, api.Ins{Code: 99})
-	fill(p.Output, api.Ins{Code: 99})
-}
-
 // parts holds the lists of one program apart: what is changed in one changes none of the others.
 func parts(t *testing.T, p api.Program) {
 	t.Helper()
-	kept := copied(p)
-	fill(p.Groups, "spoilt")
-	fill(p.Times, 99)
-	fill(p.Filter, api.Ins{Code: 99})
+	kept := sample.CopyProgram(p)
+	sample.Fill(p.Groups, "spoilt")
+	sample.Fill(p.Times, 99)
+	sample.Fill(p.Filter, api.Ins{Code: 99})
 	for i, l := range p.Lists {
 		if i%2 == 0 {
-			fill(l, "spoilt")
+			sample.Fill(l, "spoilt")
 		}
 	}
 	p.Groups, p.Times, p.Filter = kept.Groups, kept.Times, kept.Filter

@@ -99,23 +99,10 @@ func program(d sample.Draw) api.Program {
 	}
 }
 
-// copied is a program in memory of its own, with what stands behind the ends of its lists.
-func copied(p api.Program) api.Program {
-	p.Groups, p.Aliases, p.Names, p.Texts = room(p.Groups), room(p.Aliases), room(p.Names), room(p.Texts)
-	p.Accs, p.Times, p.Ints, p.Filter, p.Output, p.Lists = room(p.Accs), room(p.Times), room(p.Ints), room(p.Filter), room(p.Output), room(p.Lists)
-	for i := range p.Lists {
-		p.Lists[i] = room(p.Lists[i])
-	}
-	return p
-}
-
-// room is a list with one thing behind its end.
-func room[T any](l []T) []T {
-	return append(append(make([]T, 0, len(l)+1), l...), *new(T))[:len(l)]
-}
-
 // alike tells whether programs are the same; lists that are empty and that are none are one.
-func alike(a, b api.Program) bool { return reflect.DeepEqual(copied(a), copied(b)) }
+func alike(a, b api.Program) bool {
+	return reflect.DeepEqual(sample.CopyProgram(a), sample.CopyProgram(b))
+}
 
 // written is a program's bytes as the chapter tells them, by the library.
 func written(p api.Program) []byte {

@@ -89,7 +89,7 @@ type planner struct{ accs []api.Acc }
 
 func (p *planner) acc(f api.Func, field string) sample.Tree {
 	p.accs = append(p.accs, api.Acc{Func: f, Field: field})
-	return sample.Tree{Node: acc(int64(len(p.accs) - 1))}
+	return sample.Tree{Node: sample.Acc(len(p.accs) - 1)}
 }
 
 func (p *planner) tree(g sample.Tree) sample.Tree {
@@ -192,21 +192,7 @@ func improve(p api.Plan) api.Plan {
 }
 
 // alike tells whether plans are the same, all places being 0; lists that are empty and that are none are one.
-func alike(a, b api.Plan) bool {
-	none := func(p api.Plan) api.Plan {
-		if len(p.Groups) == 0 {
-			p.Groups = nil
-		}
-		if len(p.Where) == 0 {
-			p.Where = nil
-		}
-		if len(p.Accs) == 0 {
-			p.Accs = nil
-		}
-		return p
-	}
-	return reflect.DeepEqual(none(a), none(b))
-}
+func alike(a, b api.Plan) bool { return reflect.DeepEqual(sample.CopyPlan(a), sample.CopyPlan(b)) }
 
 // P17.1, P17.2, P17.5: any queries.
 func TestAnyQueries(t *testing.T) {
@@ -263,7 +249,7 @@ func TestAnyPlans(t *testing.T) {
 	d := draw()
 	folded, shared, dropped := 0, 0, 0
 	for range 6000 {
-		p := planOf(d)
+		p := d.Plan()
 		got := made(t, Improve, p)
 		if want := improve(p); !alike(got, want) {
 			t.Fatalf("%v: %v, not %v", p, got, want)
@@ -331,7 +317,7 @@ func TestWhere(t *testing.T) {
 // P17.2: a part without accumulators may have a level more than a sum.
 func TestDeepest(t *testing.T) {
 	tree := func(levels int, l ...api.Node) api.Plan {
-		return api.Plan{From: "a", Every: 1, Accs: []api.Acc{{Func: api.Max, Field: "v"}}, Outs: []api.Out{{Alias: "x", Tree: neg(levels-ast.Depth(l), l...)}}}
+		return api.Plan{From: "a", Every: 1, Accs: []api.Acc{{Func: api.Max, Field: "v"}}, Outs: []api.Out{{Alias: "x", Tree: sample.Neg(levels-ast.Depth(l), l...)}}}
 	}
 	overflow := sample.Above(api.OpAdd, sample.Int(math.MaxInt64), sample.Int(1))
 	for _, c := range []struct {
@@ -339,9 +325,9 @@ func TestDeepest(t *testing.T) {
 	}{
 		{[]api.Node{sample.Int(5)}, []api.Node{sample.Int(5)}},
 		{sample.Above(api.OpAdd, sample.Int(5), sample.Int(2)), []api.Node{sample.Int(-7)}},
-		{overflow, neg(63, overflow...)},
-		{[]api.Node{acc(0)}, neg(64, acc(0))},
-		{sample.Over(api.OpMul, []api.Node{acc(0)}, sample.Above(api.OpMul, sample.Int(2), sample.Int(3))), neg(62, sample.Above(api.OpMul, acc(0), sample.Int(6))...)},
+		{overflow, sample.Neg(63, overflow...)},
+		{[]api.Node{sample.Acc(0)}, sample.Neg(64, sample.Acc(0))},
+		{sample.Over(api.OpMul, []api.Node{sample.Acc(0)}, sample.Above(api.OpMul, sample.Int(2), sample.Int(3))), sample.Neg(62, sample.Above(api.OpMul, sample.Acc(0), sample.Int(6))...)},
 	} {
 		p := tree(api.MaxDeep+1, c.l...)
 		if ast.Depth(p.Outs[0].Tree) != 65 {
@@ -352,9 +338,9 @@ func TestDeepest(t *testing.T) {
 		}
 		fails(t, "a level more", Right(tree(api.MaxDeep+2, c.l...)), api.ErrPlan, expect.None)
 	}
-	item := neg(api.MaxDeep-1, sample.Call(api.Mean, "v"))
+	item := sample.Neg(api.MaxDeep-1, sample.Call(api.Mean, "v"))
 	q := api.Query{Items: []api.Item{{Tree: item, Alias: api.Label{Text: "m"}}}, From: api.Label{Text: "cpu"}, Every: 1}
-	want := neg(api.MaxDeep-1, sample.Above(api.OpRatio, acc(0), acc(1))...)
+	want := sample.Neg(api.MaxDeep-1, sample.Above(api.OpRatio, sample.Acc(0), sample.Acc(1))...)
 	if got := made(t, Best, q); !slices.Equal(got.Outs[0].Tree, want) {
 		t.Errorf("%v", got.Outs[0].Tree)
 	}
@@ -371,7 +357,7 @@ func TestNoPlan(t *testing.T) {
 		{api.ErrEvery, expect.None, func(q *api.Query) { q.Every = 0 }},
 		{api.ErrPlain, expect.None, func(q *api.Query) { q.Items[1].Alias.Text = "" }},
 		{api.ErrPlain, expect.None, func(q *api.Query) { q.Items[2].Tree = []api.Node{sample.Int(1)} }},
-		{api.ErrPlain, expect.None, func(q *api.Query) { q.Items[2].Tree = neg(2, sample.Int(1)) }},
+		{api.ErrPlain, expect.None, func(q *api.Query) { q.Items[2].Tree = sample.Neg(2, sample.Int(1)) }},
 		{api.ErrTwice, expect.None, func(q *api.Query) { q.Items[0].Alias.Text = q.Items[3].Alias.Text }},
 		{api.ErrTwice, expect.None, func(q *api.Query) { q.Items[4].Alias.Text = q.Items[3].Alias.Text }},
 	}
@@ -436,8 +422,8 @@ func TestAnyQueriesAtAll(t *testing.T) {
 func TestSame(t *testing.T) {
 	d := draw()
 	for range 300 {
-		p := planOf(d)
-		other := copied(p)
+		p := d.Plan()
+		other := sample.CopyPlan(p)
 		for i := range other.Where {
 			other.Where[i].Pos++
 		}
@@ -468,7 +454,7 @@ func TestSame(t *testing.T) {
 			"N":      func(p *api.Plan) { p.Outs[0].Tree[0].N++ },
 			"Kids":   func(p *api.Plan) { p.Outs[0].Tree[0].Kids++ },
 		} {
-			other := copied(p)
+			other := sample.CopyPlan(p)
 			change(&other)
 			if Same(p, other) || Same(other, p) {
 				t.Fatalf("%s: %v is the same as %v", name, p, other)
@@ -484,7 +470,7 @@ func TestSame(t *testing.T) {
 func TestCost(t *testing.T) {
 	d := draw()
 	for range 300 {
-		p := planOf(d)
+		p := d.Plan()
 		want := len(p.Where) + len(p.Accs)
 		for _, line := range strings.Split(made(t, Explain, p), "\n") {
 			if strings.HasPrefix(line, "out ") {
@@ -508,55 +494,25 @@ func TestCost(t *testing.T) {
 func TestMemory(t *testing.T) {
 	d := draw()
 	for range 500 {
-		p := planOf(d)
-		in := copied(p)
-		kept := copied(p)
-		spoil(made(t, Improve, in))
+		p := d.Plan()
+		in := sample.CopyPlan(p)
+		kept := sample.CopyPlan(p)
+		sample.SpoilPlan(made(t, Improve, in))
 		made(t, Explain, in)
-		if !reflect.DeepEqual(spare(in), spare(kept)) {
+		if !reflect.DeepEqual(sample.SparePlan(in), sample.SparePlan(kept)) {
 			t.Fatalf("%v, not %v", in, kept)
 		}
 		q := asked(d)
 		before := ast.Copy(q)
 		plan := made(t, Plain, q)
-		same := copied(plan)
-		spoil(made(t, Best, q))
+		same := sample.CopyPlan(plan)
+		sample.SpoilPlan(made(t, Best, q))
 		if !alike(plan, same) {
 			t.Fatalf("%v, not %v", plan, same)
 		}
-		spoil(plan)
+		sample.SpoilPlan(plan)
 		if !reflect.DeepEqual(q, before) {
 			t.Fatalf("%v, not %v", q, before)
 		}
 	}
-}
-
-// spare is a plan with what stands behind the ends of its lists.
-func spare(p api.Plan) api.Plan {
-	p.Groups, p.Where, p.Accs, p.Outs = p.Groups[:len(p.Groups)+1], p.Where[:len(p.Where)+1], p.Accs[:len(p.Accs)+1], slices.Clone(p.Outs[:len(p.Outs)+1])
-	for i, out := range p.Outs[:len(p.Outs)-1] {
-		p.Outs[i].Tree = out.Tree[:len(out.Tree)+1]
-	}
-	return p
-}
-
-// spoil changes all that a plan's lists have, and what stands behind them.
-func spoil(p api.Plan) {
-	for i := range p.Groups {
-		p.Groups[i] = "spoilt"
-	}
-	for i := range p.Where {
-		p.Where[i].S = "spoilt"
-	}
-	for i := range p.Accs {
-		p.Accs[i].Field = "spoilt"
-	}
-	for i := range p.Outs {
-		for j := range p.Outs[i].Tree {
-			p.Outs[i].Tree[j].N = 99
-		}
-		_ = append(p.Outs[i].Tree, api.Node{S: "spoilt"})
-		p.Outs[i].Alias = "spoilt"
-	}
-	_, _, _, _ = append(p.Groups, "spoilt"), append(p.Where, api.Node{S: "spoilt"}), append(p.Accs, api.Acc{Field: "spoilt"}), append(p.Outs, api.Out{})
 }

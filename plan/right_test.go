@@ -101,7 +101,7 @@ func TestRight(t *testing.T) {
 	d := draw()
 	right := 0
 	for range 25000 {
-		p := copied(planOf(d))
+		p := sample.CopyPlan(d.Plan())
 		out, a := &p.Outs[d(len(p.Outs))], &p.Accs[d(len(p.Accs))]
 		switch d(5) {
 		case 0:
@@ -115,7 +115,7 @@ func TestRight(t *testing.T) {
 			p.Accs = p.Accs[:d(len(p.Accs)+1)]
 		case 4:
 			i := d(len(out.Tree))
-			out.Tree = slices.Insert(slices.Delete(out.Tree, i, i+1), i, sample.Above(sample.One(d, api.OpRatio, api.OpAcc), acc(int64(d(len(p.Accs)))), acc(int64(d(len(p.Accs)))))...)
+			out.Tree = slices.Insert(slices.Delete(out.Tree, i, i+1), i, sample.Above(sample.One(d, api.OpRatio, api.OpAcc), sample.Acc(d(len(p.Accs))), sample.Acc(d(len(p.Accs))))...)
 		}
 		if judged(t, p, p) {
 			right++
@@ -132,14 +132,14 @@ func base() api.Plan {
 		From: "cpu", Into: "hourly", Every: 3600, Offset: 60, Groups: []string{"host", "zone"},
 		Where: sample.Above(api.OpEq, sample.Tag("host"), sample.Text("a")),
 		Accs:  []api.Acc{{Func: api.TotalOf, Field: "v"}, {Func: api.Count, Field: "v"}, {Func: api.Count, Field: "w"}},
-		Outs:  []api.Out{{Alias: "m", Tree: sample.Above(api.OpRatio, acc(0), acc(1))}, {Alias: "n", Tree: []api.Node{acc(2)}}},
+		Outs:  []api.Out{{Alias: "m", Tree: sample.Above(api.OpRatio, sample.Acc(0), sample.Acc(1))}, {Alias: "n", Tree: []api.Node{sample.Acc(2)}}},
 	}
 }
 
 // P17.3: the edges, part by part.
 func TestEdges(t *testing.T) {
 	names := []string{"", "time", "x", "a\n", "\xff", "\x7f", "é", "select", "a\"b", strings.Repeat("n", 64), strings.Repeat("n", 65), strings.Repeat("é", 32), strings.Repeat("é", 33)}
-	deep := neg(63, sample.Node(api.OpTrue, 0))
+	deep := sample.Neg(63, sample.Node(api.OpTrue, 0))
 	for i := range 63 {
 		deep[i].Op = api.OpNot
 	}
@@ -170,7 +170,7 @@ func TestEdges(t *testing.T) {
 		changes["outs "+s] = func(p *api.Plan) {
 			p.Outs = nil
 			for i := range n {
-				p.Outs = append(p.Outs, api.Out{Alias: "o" + strconv.Itoa(i), Tree: []api.Node{acc(0)}})
+				p.Outs = append(p.Outs, api.Out{Alias: "o" + strconv.Itoa(i), Tree: []api.Node{sample.Acc(0)}})
 			}
 		}
 		changes["Func "+s] = func(p *api.Plan) { p.Accs[2].Func = api.Func(n) }
@@ -190,12 +190,12 @@ func TestEdges(t *testing.T) {
 		"one name twice":          func(p *api.Plan) { p.Outs[1].Alias = "m" },
 		"no Accs":                 func(p *api.Plan) { p.Accs = nil },
 		"no Tree":                 func(p *api.Plan) { p.Outs[1].Tree = nil },
-		"a node more":             func(p *api.Plan) { p.Outs[1].Tree = append(p.Outs[1].Tree, acc(1)) },
+		"a node more":             func(p *api.Plan) { p.Outs[1].Tree = append(p.Outs[1].Tree, sample.Acc(1)) },
 		"a ratio's end":           func(p *api.Plan) { p.Outs[0].Tree = p.Outs[0].Tree[:2] },
 		"a ratio alone":           func(p *api.Plan) { p.Outs[0].Tree = p.Outs[0].Tree[:1] },
 		"another field":           func(p *api.Plan) { p.Outs[0].Tree[2].N = 2 },
 		"a call":                  func(p *api.Plan) { p.Outs[1].Tree = []api.Node{sample.Call(api.Max, "v")} },
-		"a call beside":           func(p *api.Plan) { p.Outs[1].Tree = sample.Above(api.OpAdd, acc(1), sample.Call(api.Max, "v")) },
+		"a call beside":           func(p *api.Plan) { p.Outs[1].Tree = sample.Above(api.OpAdd, sample.Acc(1), sample.Call(api.Max, "v")) },
 		"a condition":             func(p *api.Plan) { p.Outs[1].Tree = []api.Node{sample.Node(api.OpTrue, 0)} },
 		"a number alone":          func(p *api.Plan) { p.Outs = []api.Out{{Alias: "x", Tree: []api.Node{sample.Int(7)}}} },
 		"Func of an acc":          func(p *api.Plan) { p.Outs[1].Tree[0].Func = 1 },
@@ -203,14 +203,16 @@ func TestEdges(t *testing.T) {
 		"N of a ratio":            func(p *api.Plan) { p.Outs[0].Tree[0].N = 1 },
 		"S of a ratio":            func(p *api.Plan) { p.Outs[0].Tree[0].S = "v" },
 		"Func of a ratio":         func(p *api.Plan) { p.Outs[0].Tree[0].Func = 1 },
-		"kids of a ratio":         func(p *api.Plan) { p.Outs[0].Tree = sample.Above(api.OpRatio, acc(0), acc(1), acc(2)) },
-		"a ratio of a sum": func(p *api.Plan) {
-			p.Outs[0].Tree = sample.Over(api.OpRatio, neg(1, acc(0)), []api.Node{acc(1)})
+		"kids of a ratio": func(p *api.Plan) {
+			p.Outs[0].Tree = sample.Above(api.OpRatio, sample.Acc(0), sample.Acc(1), sample.Acc(2))
 		},
-		"a ratio of a number": func(p *api.Plan) { p.Outs[0].Tree = sample.Above(api.OpRatio, acc(0), sample.Int(1)) },
-		"a ratio's parts":     func(p *api.Plan) { p.Outs[0].Tree = sample.Above(api.OpSub, acc(1), acc(0)) },
-		"the wrong way round": func(p *api.Plan) { p.Outs[0].Tree = sample.Above(api.OpRatio, acc(1), acc(0)) },
-		"the sum twice":       func(p *api.Plan) { p.Outs[0].Tree = sample.Above(api.OpRatio, acc(0), acc(0)) },
+		"a ratio of a sum": func(p *api.Plan) {
+			p.Outs[0].Tree = sample.Over(api.OpRatio, sample.Neg(1, sample.Acc(0)), []api.Node{sample.Acc(1)})
+		},
+		"a ratio of a number": func(p *api.Plan) { p.Outs[0].Tree = sample.Above(api.OpRatio, sample.Acc(0), sample.Int(1)) },
+		"a ratio's parts":     func(p *api.Plan) { p.Outs[0].Tree = sample.Above(api.OpSub, sample.Acc(1), sample.Acc(0)) },
+		"the wrong way round": func(p *api.Plan) { p.Outs[0].Tree = sample.Above(api.OpRatio, sample.Acc(1), sample.Acc(0)) },
+		"the sum twice":       func(p *api.Plan) { p.Outs[0].Tree = sample.Above(api.OpRatio, sample.Acc(0), sample.Acc(0)) },
 		"accs that are spare": func(p *api.Plan) { p.Accs = append(p.Accs, slices.Repeat(p.Accs, 100)...) },
 	} {
 		changes[name] = change
@@ -242,7 +244,7 @@ func TestLongest(t *testing.T) {
 		p.Groups = append(p.Groups, name(i))
 	}
 	for i := range api.MaxFields {
-		p.Outs = append(p.Outs, api.Out{Alias: name(i), Tree: []api.Node{acc(0)}})
+		p.Outs = append(p.Outs, api.Out{Alias: name(i), Tree: []api.Node{sample.Acc(0)}})
 	}
 	if !judged(t, "the longest names", p) {
 		t.Error("long names are wrong")
@@ -253,8 +255,8 @@ func TestLongest(t *testing.T) {
 func TestAnyDepth(t *testing.T) {
 	p := base()
 	for _, l := range [][]api.Node{
-		neg(1<<20, acc(0)),
-		neg(1<<20, sample.Node(api.OpNeg, 1)),
+		sample.Neg(1<<20, sample.Acc(0)),
+		sample.Neg(1<<20, sample.Node(api.OpNeg, 1)),
 		slices.Repeat([]api.Node{sample.Node(api.OpRatio, 2)}, 1<<20),
 		slices.Repeat([]api.Node{sample.Node(api.OpAdd, math.MaxInt)}, 1<<10),
 	} {

@@ -1,4 +1,4 @@
-// Package sample draws trees and queries of all kinds, and tells anew what they say, for the tests of the layers that are given some. Tests alone ask it; the program does not.
+// Package sample draws trees, queries and plans of all kinds, tells anew what they say, and runs code, for the tests of the layers that are given some. Tests alone ask it; the program does not.
 package sample
 
 import (
