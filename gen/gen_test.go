@@ -199,25 +199,6 @@ func asks(p api.Program, tags []api.Tag, at int64) func(api.Ins) bool {
 	}
 }
 
-// tagsOf draws tags of which a condition speaks.
-func tagsOf(d sample.Draw, where []api.Node) (tags []api.Tag, at int64) {
-	texts, times := []string{"", "a"}, []int64{0, d.Number()}
-	for _, n := range where {
-		switch n.Op {
-		case api.OpText:
-			texts = append(texts, n.S)
-		case api.OpTime:
-			times = append(times, n.N, n.N-1, n.N+1)
-		}
-	}
-	for _, name := range norm.Tags(where) {
-		if d(4) > 0 {
-			tags = append(tags, api.Tag{Key: name, Value: sample.One(d, texts...)})
-		}
-	}
-	return tags, sample.One(d, times...)
-}
-
 // P20.4: code accepts what its condition holds of, and emits what its trees tell.
 func TestRuns(t *testing.T) {
 	d := draw()
@@ -226,7 +207,7 @@ func TestRuns(t *testing.T) {
 		p := d.Plan()
 		x := made(t, Make, p)
 		for range 8 {
-			tags, at := tagsOf(d, p.Where)
+			tags, at := d.Asked(p.Where)
 			want := true
 			if len(p.Where) > 0 {
 				want, _ = norm.Holds(p.Where, tags, at)

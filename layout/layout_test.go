@@ -16,7 +16,7 @@ import (
 
 // layers stand in their order: each may import those ahead of it.
 var layers = []string{
-	"api", "funcs", "fault", "num", "wire", "span", "key", "line", "batch", "series", "block", "index", "store", "lex", "ast", "parse",
+	"api", "funcs", "fault", "num", "reckon", "wire", "span", "key", "line", "batch", "series", "block", "index", "store", "lex", "ast", "parse",
 	"check", "norm", "plan", "code", "verify", "gen", "heap", "acc", "cell", "vm", "cq", "engine", "journal", "shell",
 }
 

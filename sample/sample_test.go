@@ -2,11 +2,13 @@ package sample
 
 import (
 	"math/rand"
+	"slices"
 	"testing"
 
 	"weir/api"
 	"weir/ast"
 	"weir/fault"
+	"weir/verify"
 )
 
 // What is drawn is right, and of all kinds; a spoilt tree is mostly not.
@@ -35,5 +37,44 @@ func TestRight(t *testing.T) {
 	}
 	if len(ops) != 24 || len(fills) != 3 || spoilt < 1000 {
 		t.Errorf("%d kinds of nodes, %d fillings, %d spoilt trees", len(ops), len(fills), spoilt)
+	}
+}
+
+// Programs that are drawn pass, and a broken one mostly does not, however often it was broken.
+func TestPrograms(t *testing.T) {
+	d := Draw(rand.New(rand.NewSource(1970)).Intn)
+	codes, broken := map[api.Code]int{}, 0
+	for i := range 3000 {
+		p := d.Program(1 + i%20)
+		if err := verify.Program(p); err != nil {
+			t.Fatalf("%v: %v", p, err)
+		}
+		for _, ins := range append(p.Filter, p.Output...) {
+			codes[ins.Code]++
+		}
+		for range 1 + d(20) {
+			p = d.Broken(p)
+		}
+		if verify.Program(p) != nil {
+			broken++
+		}
+	}
+	if len(codes) != 24 || broken < 2000 {
+		t.Errorf("%d kinds of instructions, %d broken programs", len(codes), broken)
+	}
+}
+
+func TestShuffled(t *testing.T) {
+	d := Draw(rand.New(rand.NewSource(1970)).Intn)
+	l, orders := []int{1, 2, 3}, map[[3]int]int{}
+	for range 600 {
+		other := Shuffled(d, l)
+		orders[[3]int(other)]++
+		if slices.Sort(other); !slices.Equal(other, []int{1, 2, 3}) {
+			t.Fatalf("%v", other)
+		}
+	}
+	if len(orders) != 6 || !slices.Equal(l, []int{1, 2, 3}) {
+		t.Errorf("%v, %v", orders, l)
 	}
 }

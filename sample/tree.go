@@ -1,4 +1,4 @@
-// Package sample draws trees, queries and plans of all kinds, tells anew what they say, and runs code, for the tests of the layers that are given some. Tests alone ask it; the program does not.
+// Package sample draws trees, queries, plans and programs of all kinds, tells anew what they say, and runs code, for the tests of the layers that are given some. Tests alone ask it; the program does not.
 package sample
 
 import (
@@ -112,6 +112,29 @@ func (d Draw) Comparison() []api.Node {
 func (d Draw) word() api.Node { return One(d, Tag(d.Name()), Text(d.Text())) }
 
 func (d Draw) moment() api.Node { return One(d, Node(api.OpClock, 0), Time(d.Number())) }
+
+// Asked draws tags and a time, such as a condition speaks of.
+func (d Draw) Asked(cond []api.Node) (tags []api.Tag, at int64) {
+	var names []string
+	texts, times := []string{"", "a"}, []int64{0, d.Number()}
+	for _, n := range cond {
+		switch n.Op {
+		case api.OpTag:
+			names = append(names, n.S)
+		case api.OpText:
+			texts = append(texts, n.S)
+		case api.OpTime:
+			times = append(times, n.N, n.N-1, n.N+1)
+		}
+	}
+	slices.Sort(names)
+	for _, name := range slices.Compact(names) {
+		if d(4) > 0 {
+			tags = append(tags, api.Tag{Key: name, Value: One(d, texts...)})
+		}
+	}
+	return tags, One(d, times...)
+}
 
 // Spoil is a tree with one thing of it changed: most are wrong then.
 func (d Draw) Spoil(l []api.Node) []api.Node {

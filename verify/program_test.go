@@ -330,9 +330,9 @@ func TestAnyPrograms(t *testing.T) {
 	d := draw()
 	told := map[api.Errno]int{}
 	for i := range 60000 {
-		p := passing(d, 1+i%13)
+		p := d.Program(1 + i%13)
 		is(t, p, p, 0, expect.None)
-		p = spoil(d, p)
+		p = d.Broken(p)
 		e, pos := judge(p)
 		is(t, p, p, e, pos)
 		told[e]++
@@ -359,7 +359,7 @@ func TestZero(t *testing.T) {
 func TestMore(t *testing.T) {
 	d := draw()
 	for range 3000 {
-		p := sample.CopyProgram(passing(d, 1+d(12)))
+		p := sample.CopyProgram(d.Program(1 + d(12)))
 		more := p
 		more.Names, more.Texts = slices.Concat(p.Names, []string{"more"}), slices.Concat(p.Texts, []string{"more", ""})
 		more.Lists, more.Times, more.Ints = slices.Concat(p.Lists, [][]string{{""}}), slices.Concat(p.Times, []int64{1, 2}), slices.Concat(p.Ints, []int64{3})
@@ -381,9 +381,9 @@ func TestMore(t *testing.T) {
 func TestMemory(t *testing.T) {
 	d := draw()
 	for range 1000 {
-		p := passing(d, 1+d(12))
+		p := d.Program(1 + d(12))
 		if d(2) == 0 {
-			p = spoil(d, p)
+			p = d.Broken(p)
 		}
 		in, kept := sample.CopyProgram(p), sample.CopyProgram(p)
 		for _, call := range []func(p api.Program) ([]int, error){Heights, Rises, Dead} {

@@ -95,7 +95,7 @@ func TestWays(t *testing.T) {
 	d := draw()
 	some := 0
 	for i := range 30000 {
-		p := passing(d, 1+i%25)
+		p := d.Program(1 + i%25)
 		heights, _ := Heights(p)
 		rises, _ := Rises(p)
 		for _, c := range []struct {
@@ -211,7 +211,7 @@ func TestRuns(t *testing.T) {
 	d := draw()
 	jumped := 0
 	for i := range 10000 {
-		p := passing(d, 1+i%25)
+		p := d.Program(1 + i%25)
 		heights, _ := Heights(p)
 		rises, _ := Rises(p)
 		dead, _ := Dead(p)
