@@ -71,25 +71,8 @@ func sameSeries(a, b api.Series) bool {
 	return a.Measure == b.Measure && slices.Equal(a.Tags, b.Tags) && a.Field == b.Field
 }
 
-// about is a tree with names, texts and numbers of which there are few, so that samples are spoken of.
-func about(d sample.Draw, l []api.Node) []api.Node {
-	for i := range l {
-		switch n := &l[i]; n.Op {
-		case api.OpCall:
-			n.S = sample.One(d, "v", "v", "w", "x")
-		case api.OpTag:
-			n.S = sample.One(d, "host", "zone", "nope")
-		case api.OpText:
-			n.S = sample.One(d, "", "a", "b")
-		case api.OpTime:
-			n.N = sample.One(d, int64(d(60)-30), d.Number())
-		case api.OpInt:
-			n.N = sample.One(d, int64(d(7)-3), int64(d(7)-3), d.Number())
-		}
-		l[i].Pos = d(99)
-	}
-	return l
-}
+// columns are those of which samples are drawn, and one of each kind that none has.
+var columns = api.Table{Tags: []string{"host", "zone", "nope"}, Fields: []string{"v", "v", "w", "x"}}
 
 // someQuery draws a right query of cpu.
 func someQuery(d sample.Draw) api.Query {
@@ -98,10 +81,10 @@ func someQuery(d sample.Draw) api.Query {
 	q.Into.Text = sample.One(d, "", "target", "cpu", "time")
 	for i := range 1 + d(4) {
 		alias := sample.One(d, "", "one", "a b", strconv.Itoa(i), strconv.Itoa(i))
-		q.Items = append(q.Items, api.Item{Tree: about(d, d.Sum(1+d(4))), Alias: api.Label{Text: alias}})
+		q.Items = append(q.Items, api.Item{Tree: d.About(columns, d.Sum(1+d(4))), Alias: api.Label{Text: alias}})
 	}
 	if d(3) > 0 {
-		q.Where = about(d, d.Cond(1+d(4)))
+		q.Where = d.About(columns, d.Cond(1+d(4)))
 	}
 	for range d(4) {
 		q.Groups = append(q.Groups, api.Label{Text: sample.One(d, "host", "zone", "nope"), Pos: d(99)})

@@ -64,6 +64,40 @@ func TestPrograms(t *testing.T) {
 	}
 }
 
+// Queries that are drawn over a table ask for its columns alone, and each item has a call and a name of its own.
+func TestAsking(t *testing.T) {
+	d := Draw(rand.New(rand.NewSource(1970)).Intn)
+	for _, table := range []api.Table{{Measure: "cpu", Tags: []string{"host", "zone"}, Fields: []string{"v", "w"}}, {Measure: "m", Fields: []string{"x"}}} {
+		asked := map[string]int{}
+		for range 1000 {
+			q := d.Asking(table, "t")
+			if err := ast.Right(q); err != nil && fault.Code(err) != api.ErrLong {
+				t.Fatalf("%v: %v", q, err)
+			}
+			names := map[string]bool{}
+			nodes := slices.Clone(q.Where)
+			for _, item := range q.Items {
+				nodes = append(nodes, item.Tree...)
+				if names[item.Alias.Text] || len(ast.Calls(item.Tree)) == 0 {
+					t.Fatalf("%v", q)
+				}
+				names[item.Alias.Text] = true
+			}
+			for _, n := range nodes {
+				if n.Op == api.OpCall || n.Op == api.OpTag {
+					asked[n.S]++
+				}
+			}
+			for _, group := range q.Groups {
+				asked[group.Text]++
+			}
+		}
+		if columns := append(table.Tags, table.Fields...); len(asked) != len(columns) || slices.ContainsFunc(columns, func(s string) bool { return asked[s] == 0 }) {
+			t.Errorf("%v", asked)
+		}
+	}
+}
+
 func TestShuffled(t *testing.T) {
 	d := Draw(rand.New(rand.NewSource(1970)).Intn)
 	l, orders := []int{1, 2, 3}, map[[3]int]int{}
